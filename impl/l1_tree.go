@@ -77,6 +77,8 @@ func isLetter(b byte) bool { return 'a' <= b && b <= 'z' }
 
 func isFigure(b byte) bool { return '0' <= b && b <= '9' }
 
+func isObject(id int) bool { return 0 <= id && id < TreeMax }
+
 // TreeOk says whether a tree is one.
 func TreeOk(t Tree) bool {
 	_, ok := layOut(t)
@@ -195,7 +197,7 @@ func (n node) partsOk() bool {
 
 func kidsOk(kids []Ent) bool {
 	for i, kid := range kids {
-		if !TreeWord(kid.Name) || kid.Id <= treeTop || kid.Id >= TreeMax {
+		if !TreeWord(kid.Name) || !isObject(kid.Id) || kid.Id == treeTop {
 			return false
 		}
 		if i > 0 && kids[i-1].Name >= kid.Name {
@@ -238,7 +240,7 @@ func layOut(t Tree) (*layout, bool) {
 }
 
 func (all *layout) has(id int) bool {
-	return 0 <= id && id < TreeMax && all[id].there()
+	return isObject(id) && all[id].there()
 }
 
 // settle tells each node its home; it fails unless each but the top has just one.
