@@ -207,15 +207,20 @@ func kidsOk(kids []Ent) bool {
 	return true
 }
 
-// findKid halves the names, as those of an ok directory are ascending.
+// findKid is what a name names among those of an ok directory, or -1.
 func findKid(kids []Ent, name string) int {
-	at, found := slices.BinarySearchFunc(kids, name, func(kid Ent, name string) int {
-		return strings.Compare(kid.Name, name)
-	})
+	at, found := kidPlace(kids, name)
 	if !found {
 		return treeNoOne
 	}
 	return kids[at].Id
+}
+
+// kidPlace halves the names, as those of an ok directory are ascending; of a name that is not there it is where it would be.
+func kidPlace(kids []Ent, name string) (int, bool) {
+	return slices.BinarySearchFunc(kids, name, func(kid Ent, name string) int {
+		return strings.Compare(kid.Name, name)
+	})
 }
 
 // layout is the nodes of an ok tree by their numbers, so that a walk up need not look through all directories.
