@@ -280,21 +280,7 @@ func TestActDirectoryThatIsToGo(t *testing.T) {
 }
 
 func TestActTreesThatAreNotOk(t *testing.T) {
-	open := impl.TreeOpen()
-	wrongs := map[string]impl.Tree{
-		"nothing":          {},
-		"no objects":       {Objs: []impl.Obj{}},
-		"one object fewer": {Objs: open.Objs[:impl.TreeMax-1]},
-		"one object more":  {Objs: append(slices.Clone(open.Objs), impl.Obj{})},
-		"no top":           {Objs: make([]impl.Obj, impl.TreeMax)},
-		"a Ver too great":  plainTreeWith(func(x *impl.Tree) { x.Objs[7].Ver = impl.TreeVer + 1 }),
-		"a Ver below 0":    plainTreeWith(func(x *impl.Tree) { x.Objs[7].Ver = -1 }),
-		"a file nowhere":   plainTreeWith(func(x *impl.Tree) { x.Objs[3] = file("") }),
-		"a ring":           plainTreeWith(func(x *impl.Tree) { x.Objs[3] = dir(ent{Name: "c", Id: 3}) }),
-		"a name of 40":     plainTreeWith(func(x *impl.Tree) { x.Objs[31].Kids = []ent{{Name: "c", Id: 40}} }),
-		"names disordered": plainTreeWith(func(x *impl.Tree) { slices.Reverse(x.Objs[9].Kids) }),
-	}
-	for why, x := range wrongs {
+	for why, x := range treesNotOk() {
 		for _, o := range plainOps {
 			wantNone(t, why, x, o.op)
 		}
@@ -516,9 +502,7 @@ func wantListsApart(t *testing.T, why string, x impl.Tree) {
 	for id := range x.Objs {
 		was := copyTree(x)
 		kids := x.Objs[id].Kids
-		for i := range kids[:cap(kids)] {
-			kids[:cap(kids)][i] = ent{Name: "mine", Id: -id}
-		}
+		fill(kids, ent{Name: "mine", Id: -id})
 		for other := range x.Objs {
 			if other != id && !slices.Equal(x.Objs[other].Kids, was.Objs[other].Kids) {
 				t.Errorf("%s: the names of %d and %d share memory", why, id, other)
@@ -530,14 +514,9 @@ func wantListsApart(t *testing.T, why string, x impl.Tree) {
 
 func scribble(x impl.Tree) {
 	for id := range x.Objs {
-		kids := x.Objs[id].Kids
-		for i := range kids[:cap(kids)] {
-			kids[:cap(kids)][i] = ent{Name: "bad", Id: -9}
-		}
+		fill(x.Objs[id].Kids, ent{Name: "bad", Id: -9})
 	}
-	for i := range x.Objs[:cap(x.Objs)] {
-		x.Objs[:cap(x.Objs)][i] = file("bad")
-	}
+	fill(x.Objs, file("bad"))
 }
 
 // Nearly all that can be done of a small tree, held against the model.

@@ -266,9 +266,7 @@ func TestSlimAnswersAreNewMemory(t *testing.T) {
 			room := append(slices.Clone(list), kept, kept, kept)
 			was := slices.Clone(room)
 			got := rule.slim(room[:len(list)])
-			for i := range got[:cap(got)] {
-				got[:cap(got)][i] = op{Kind: -1, Name: "bad"}
-			}
+			fill(got, op{Kind: -1, Name: "bad"})
 			if !slices.Equal(room, was) {
 				t.Errorf("%s of %q: the argument, or what is behind its end, is another one", rule.name, linesOf(list))
 			}

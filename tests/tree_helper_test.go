@@ -56,6 +56,31 @@ func plainTreeWith(change func(t *impl.Tree)) impl.Tree {
 	return t
 }
 
+// treesNotOk is one of each fault, by what it is.
+func treesNotOk() map[string]impl.Tree {
+	open := impl.TreeOpen()
+	return map[string]impl.Tree{
+		"nothing":          {},
+		"no objects":       {Objs: []impl.Obj{}},
+		"one object fewer": {Objs: open.Objs[:impl.TreeMax-1]},
+		"one object more":  {Objs: append(slices.Clone(open.Objs), impl.Obj{})},
+		"no top":           {Objs: make([]impl.Obj, impl.TreeMax)},
+		"a Ver too great":  plainTreeWith(func(x *impl.Tree) { x.Objs[7].Ver = impl.TreeVer + 1 }),
+		"a Ver below 0":    plainTreeWith(func(x *impl.Tree) { x.Objs[7].Ver = -1 }),
+		"a file nowhere":   plainTreeWith(func(x *impl.Tree) { x.Objs[3] = file("") }),
+		"a ring":           plainTreeWith(func(x *impl.Tree) { x.Objs[3] = dir(ent{Name: "c", Id: 3}) }),
+		"a name of 40":     plainTreeWith(func(x *impl.Tree) { x.Objs[31].Kids = []ent{{Name: "c", Id: 40}} }),
+		"names disordered": plainTreeWith(func(x *impl.Tree) { slices.Reverse(x.Objs[9].Kids) }),
+	}
+}
+
+// fill writes into all of a list, spare room included.
+func fill[T any](list []T, bad T) {
+	for i := range list[:cap(list)] {
+		list[:cap(list)][i] = bad
+	}
+}
+
 // oddNumbers is numbers of objects, of none, and far from both.
 var oddNumbers = []int{math.MinInt, -32, -2, -1, 0, 1, 2, 5, 7, 9, 30, 31, 32, 33, 64, math.MaxInt}
 
